@@ -94,7 +94,7 @@ func (r row) window(t testing.TB) *window.Window {
 func (r row) first(done, safe int) ([]int, int) {
 	var ahead []int
 	seq := done + 1
-	for r.isThere(seq) && (r.isOld(seq) || !r.isSafe(seq) || seq <= safe) {
+	for r.isThere(seq) && (!r.isSafe(seq) || seq <= safe) {
 		if !r.isOld(seq) {
 			ahead = append(ahead, seq)
 		}
@@ -352,15 +352,86 @@ func TestWhatWasSentAgainIsPassedOver(t *testing.T) {
 		{".OpP", 0, 0, nil, []int{3}},
 		{".o", 0, 0, nil, nil},
 		{"sOSoP.Oo", 0, 0, nil, []int{1, 3, 5}},
-		{"x", 0, 0, nil, nil}, // it is not told: it waits for nothing
-		{"xp", 0, 0, []int{2}, nil},
-		{"XP", 0, least, []int{2}, nil},
-		{"pXxP", 0, 0, []int{1, 4}, nil},
-		{"pxsP", 0, 2, []int{1}, []int{3, 4}},
-		{"pxsP", 0, 3, []int{1, 3, 4}, nil},
 		{".xXp", 0, 9, nil, []int{4}},
 	} {
 		at(t, old(c.done, c.safe), c.r.window(t), kin, next(), c.r.events(c.ahead, c.behind))
+	}
+}
+
+func TestWhatWasSentAgainAndIsSafeWaits(t *testing.T) { // it is not told, but ends what is told ahead, as all that is Safe
+	for _, c := range []struct {
+		r             row
+		done, safe    int
+		ahead, behind []int
+	}{
+		// at the first number
+		{"xp", 0, least, nil, []int{2}},
+		{"xp", 0, -1, nil, []int{2}},
+		{"xp", 0, 0, nil, []int{2}},
+		{"XP", 0, 0, nil, []int{2}},
+		{"xp", 0, 1, []int{2}, nil},
+		{"XP", 0, 1, []int{2}, nil},
+		{"xp", 0, 2, []int{2}, nil},
+		{"xp", 0, greatest, []int{2}, nil},
+		{"xp", 1, 0, []int{2}, nil}, // what was delivered so far does not wait
+		{"xp", 2, 0, nil, nil},
+		// in the middle
+		{"pxp", 0, 0, []int{1}, []int{3}},
+		{"pXP", 0, 1, []int{1}, []int{3}},
+		{"pxp", 0, 2, []int{1, 3}, nil},
+		{"pXP", 0, 2, []int{1, 3}, nil},
+		{"pxp", 0, 3, []int{1, 3}, nil},
+		{"pxp", 1, 1, nil, []int{3}},
+		{"pxp", 1, 2, []int{3}, nil},
+		{"pxp", 2, 0, []int{3}, nil},
+		{"pXxP", 0, 0, []int{1}, []int{4}},
+		{"pXxP", 0, 2, []int{1}, []int{4}},
+		{"pXxP", 0, 3, []int{1, 4}, nil},
+		{"oxop", 0, 1, nil, []int{4}},
+		{"oxop", 0, 2, []int{4}, nil},
+		{"sxs", 0, 1, []int{1}, []int{3}},
+		{"sxs", 0, 2, []int{1}, []int{3}},
+		{"sxs", 0, 3, []int{1, 3}, nil},
+		{"pxsP", 0, 2, []int{1}, []int{3, 4}},
+		{"pxsP", 0, 3, []int{1, 3, 4}, nil},
+		// at the last one
+		{"ppx", 0, 0, []int{1, 2}, nil},
+		{"ppx", 0, 2, []int{1, 2}, nil},
+		{"ppx", 0, 3, []int{1, 2}, nil},
+		{"psx", 0, 1, []int{1}, []int{2}},
+		{"psx", 0, 2, []int{1, 2}, nil},
+		// with none beside them
+		{"x", 0, 0, nil, nil},
+		{"x", 0, 1, nil, nil},
+		{"X", 1, 0, nil, nil},
+		{"xXx", 0, 0, nil, nil},
+		{"xXx", 0, 2, nil, nil},
+		{"xXx", 0, 9, nil, nil},
+		{"oxO", 0, 0, nil, nil},
+		// ahead of a gap, and behind it
+		{"px.pP", 0, 0, []int{1}, []int{4}},
+		{"xP.pP", 0, 0, nil, []int{2, 4}},
+		{"xP.pP", 0, 1, []int{2}, []int{4}},
+		{"P.xpP", 0, 9, []int{1}, []int{4}},
+		{".xp", 0, 0, nil, []int{3}},
+	} {
+		at(t, old(c.done, c.safe), c.r.window(t), kin, next(), c.r.events(c.ahead, c.behind))
+	}
+}
+
+func TestSentAgainAndSafeAboutANumber(t *testing.T) {
+	const last = 6
+	for seq := 1; seq <= last; seq++ {
+		for _, letter := range []string{"x", "X"} {
+			r := row(strings.Repeat("P", seq-1) + letter + strings.Repeat("P", last-seq))
+			w := r.window(t)
+			below, above := upTo(seq-1), upTo(last)[seq:]
+			at(t, old(0, seq-1), w, kin, next(), r.events(below, above))
+			at(t, old(0, seq), w, kin, next(), r.events(slices.Concat(below, above), nil))
+			at(t, old(0, seq+1), w, kin, next(), r.events(slices.Concat(below, above), nil))
+			at(t, old(seq-1, seq-1), w, kin, next(), r.events(nil, above))
+			at(t, old(seq, seq-1), w, kin, next(), r.events(above, nil))
+		}
 	}
 }
 

@@ -181,7 +181,7 @@ func TestNothingBetweenBothConfigurations(t *testing.T) {
 	rows(6, "pPsSo", func(r row) {
 		w := r.window(t)
 		safe := len(r) // from there on nothing is unsafe
-		for safe > 0 && (!r.isSafe(safe) || r.isOld(safe)) {
+		for safe > 0 && !r.isSafe(safe) {
 			safe--
 		}
 		for _, done := range []int{0, 1, 3, 6, 9} {
